@@ -21,6 +21,8 @@ func (c sign) plain() bool { return c == lineEnd || 32 <= c && c <= 126 }
 
 func (c sign) letter() bool { return 'a' <= c && c <= 'z' || 'A' <= c && c <= 'Z' }
 
+func (c sign) digit() bool { return '0' <= c && c <= '9' }
+
 func (c sign) same(other sign) bool { return c == other }
 
 // reference is empty of a sign that has none.
