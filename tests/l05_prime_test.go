@@ -36,9 +36,10 @@ func expectedGcd(a, b int64) int64 {
 	return new(big.Int).GCD(nil, nil, big.NewInt(a), big.NewInt(b)).Int64()
 }
 
+// expectedInverse is 0 out of range too: Times tells -1 there, by whatever number.
 func expectedInverse(a, n int64) int64 {
 	if !restOk(a, n) {
-		return -1
+		return 0
 	}
 	x := new(big.Int).ModInverse(big.NewInt(a), big.NewInt(n))
 	if x == nil {
@@ -339,14 +340,20 @@ func TestInverseIsOne(t *testing.T) {
 	}
 }
 
+// Where a or n is out of range, Times tells -1 by whatever number, so there is no Inverse.
 func TestInverseOfWrongNumbers(t *testing.T) {
 	const low, high = math.MinInt64, math.MaxInt64
 	for _, c := range [][2]int64{
 		{0, 1}, {1, 1}, {0, 0}, {1, 0}, {0, -1}, {1, -1}, {-1, -1}, {3, -7}, {-3, -7}, {1, -maxModulus}, {1, maxModulus + 1}, {0, maxModulus + 1}, {2, maxModulus + 1}, {maxModulus, maxModulus + 1}, {1, low}, {1, high}, {2, high}, {low, low}, {high, high}, {high - 1, high},
 		{-1, 2}, {2, 2}, {3, 2}, {-1, 7}, {-3, 7}, {7, 7}, {8, 7}, {10, 7}, {-4, 8}, {8, 8}, {12, 8}, {-1, maxModulus}, {maxModulus, maxModulus}, {maxModulus + 1, maxModulus}, {low, 7}, {high, 7}, {low, maxModulus}, {high, maxModulus}, {1<<32 + 3, 7}, {3, 1<<32 + 7}, {low, high}, {high, low},
 	} {
-		if got := impl.Inverse(c[0], c[1]); got != -1 {
-			t.Errorf("Inverse(%d, %d) = %d", c[0], c[1], got)
+		if got := impl.Inverse(c[0], c[1]); got != 0 {
+			t.Errorf("Inverse(%d, %d) = %d, not 0", c[0], c[1], got)
+		}
+		for _, b := range []int64{low, -1, 0, 1, 2, 3, 5, 6, c[0], c[1] - 1, c[1], maxModulus - 1, high} {
+			if got := impl.Times(c[0], b, c[1]); got != -1 {
+				t.Errorf("Times(%d, %d, %d) = %d, not -1", c[0], b, c[1], got)
+			}
 		}
 	}
 }
