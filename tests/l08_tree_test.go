@@ -892,6 +892,21 @@ func memoryTrees() [][]impl.Node {
 	return trees
 }
 
+// nodesStay holds that the given Nodes, laid ahead of their spare room, are what they were, and that room too.
+func nodesStay(t *testing.T, given, whole, before []impl.Node) {
+	t.Helper()
+	nodes := whole[:len(given)]
+	if !sameTree(whole, before) || !sameTree(nodes, given) {
+		t.Errorf("the Nodes %+v became %+v", before, whole)
+	}
+	for i := range whole {
+		if len(before[i].Attrs) > 0 && unsafe.SliceData(whole[i].Attrs) != unsafe.SliceData(before[i].Attrs) {
+			t.Errorf("the Attrs of %d lie elsewhere", i)
+		}
+	}
+	attrsRoomStays(t, nodeTokens(nodes))
+}
+
 // Promise 21 for chapter 8: what is told of Nodes.
 func TestTreeAnswersAreNewMemoryAndArgumentsStay(t *testing.T) {
 	for _, given := range memoryTrees() {
@@ -916,15 +931,7 @@ func TestTreeAnswersAreNewMemoryAndArgumentsStay(t *testing.T) {
 				}
 			}
 		}
-		if !sameTree(whole, before) || !sameTree(nodes, given) {
-			t.Errorf("the Nodes %+v became %+v", before, whole)
-		}
-		for i := range whole {
-			if len(before[i].Attrs) > 0 && unsafe.SliceData(whole[i].Attrs) != unsafe.SliceData(before[i].Attrs) {
-				t.Errorf("the Attrs of %d lie elsewhere", i)
-			}
-		}
-		attrsRoomStays(t, nodeTokens(nodes))
+		nodesStay(t, given, whole, before)
 		buffersStay(t, layOrder(nodeTokens(given)), buffers)
 	}
 }
