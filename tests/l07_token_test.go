@@ -656,12 +656,13 @@ func tokenTexts(list []impl.Token) []string {
 }
 
 // roomOf tells where a list lies, its spare room among it.
-func roomOf(list []impl.Attr) (uintptr, uintptr) {
+func roomOf[T any](list []T) (uintptr, uintptr) {
+	var one T
 	start := uintptr(unsafe.Pointer(unsafe.SliceData(list)))
-	return start, start + uintptr(cap(list))*unsafe.Sizeof(impl.Attr{})
+	return start, start + uintptr(cap(list))*unsafe.Sizeof(one)
 }
 
-func sharesAttrs(a, b []impl.Attr) bool {
+func sharesRoom[T any](a, b []T) bool {
 	startA, endA := roomOf(a)
 	startB, endB := roomOf(b)
 	return cap(a) > 0 && cap(b) > 0 && startA < endB && startB < endA
@@ -681,7 +682,7 @@ func TestTokensAreNewMemoryAndTheLetterStays(t *testing.T) {
 		}
 		for i := range list {
 			for j := range list {
-				if i != j && sharesAttrs(list[i].Attrs, list[j].Attrs) || sharesAttrs(list[i].Attrs, again[j].Attrs) {
+				if i != j && sharesRoom(list[i].Attrs, list[j].Attrs) || sharesRoom(list[i].Attrs, again[j].Attrs) {
 					t.Errorf("of Tokens(%q) the Attrs of %d and %d share memory", s, i, j)
 				}
 			}

@@ -875,7 +875,7 @@ func wantApart(t *testing.T, what string, answer, argument []impl.Token) {
 	}
 	for i, one := range answer {
 		for _, other := range append(slices.Clip(argument), answer[:i]...) {
-			if sharesAttrs(one.Attrs, other.Attrs) || cap(other.Attrs) > 0 && unsafe.SliceData(one.Attrs) == unsafe.SliceData(other.Attrs) {
+			if sharesRoom(one.Attrs, other.Attrs) || cap(other.Attrs) > 0 && unsafe.SliceData(one.Attrs) == unsafe.SliceData(other.Attrs) {
 				t.Errorf("of %s the Attrs %+v lie in the argument, or in others", what, one.Attrs)
 			}
 		}
@@ -892,28 +892,38 @@ func memoryTrees() [][]impl.Node {
 	return trees
 }
 
-// nodesStay holds that the given Nodes, laid ahead of their spare room, are what they were, and that room too.
-func nodesStay(t *testing.T, given, whole, before []impl.Node) {
+// A laidTree lies ahead of spare room, and so does each text and each list of Attrs in it.
+type laidTree struct {
+	given, nodes, whole, before []impl.Node
+	buffers                     [][]byte
+}
+
+func layTree(given []impl.Node) laidTree {
+	nodes, buffers := layNodes(given)
+	whole := append(nodes, textNode(7, "spare"), element(8, "room"))
+	return laidTree{given: given, nodes: whole[:len(given)], whole: whole, before: slices.Clone(whole), buffers: buffers}
+}
+
+// stays holds that the Nodes are what was given, and their spare room what it was.
+func (l laidTree) stays(t *testing.T) {
 	t.Helper()
-	nodes := whole[:len(given)]
-	if !sameTree(whole, before) || !sameTree(nodes, given) {
-		t.Errorf("the Nodes %+v became %+v", before, whole)
+	if !sameTree(l.whole, l.before) || !sameTree(l.nodes, l.given) {
+		t.Errorf("the Nodes %+v became %+v", l.before, l.whole)
 	}
-	for i := range whole {
-		if len(before[i].Attrs) > 0 && unsafe.SliceData(whole[i].Attrs) != unsafe.SliceData(before[i].Attrs) {
+	for i := range l.whole {
+		if len(l.before[i].Attrs) > 0 && unsafe.SliceData(l.whole[i].Attrs) != unsafe.SliceData(l.before[i].Attrs) {
 			t.Errorf("the Attrs of %d lie elsewhere", i)
 		}
 	}
-	attrsRoomStays(t, nodeTokens(nodes))
+	attrsRoomStays(t, nodeTokens(l.nodes))
+	buffersStay(t, layOrder(nodeTokens(l.given)), l.buffers)
 }
 
 // Promise 21 for chapter 8: what is told of Nodes.
 func TestTreeAnswersAreNewMemoryAndArgumentsStay(t *testing.T) {
 	for _, given := range memoryTrees() {
-		nodes, buffers := layNodes(given)
-		whole := append(nodes, textNode(7, "spare"), element(8, "room"))
-		nodes = whole[:len(given)]
-		before := slices.Clone(whole)
+		tree := layTree(given)
+		nodes := tree.nodes
 		list, again := impl.TokensOf(nodes), impl.TokensOf(nodes)
 		wantApart(t, "TokensOf", list, nodeTokens(nodes))
 		wantApart(t, "TokensOf", again, append(nodeTokens(nodes), list...))
@@ -931,8 +941,7 @@ func TestTreeAnswersAreNewMemoryAndArgumentsStay(t *testing.T) {
 				}
 			}
 		}
-		nodesStay(t, given, whole, before)
-		buffersStay(t, layOrder(nodeTokens(given)), buffers)
+		tree.stays(t)
 	}
 }
 

@@ -710,10 +710,8 @@ func TestNameAnswersAreNewMemoryAndArgumentsStay(t *testing.T) {
 	}
 	told := 0
 	for _, given := range trees {
-		nodes, buffers := layNodes(given)
-		whole := append(nodes, textNode(7, "spare"), element(8, "room"))
-		nodes = whole[:len(given)]
-		before := slices.Clone(whole)
+		tree := layTree(given)
+		nodes := tree.nodes
 		impl.NamesOk(nodes)
 		for at := range int64(len(nodes)) {
 			for _, word := range []string{"", "p", "q", "u", "nobody"} {
@@ -733,8 +731,7 @@ func TestNameAnswersAreNewMemoryAndArgumentsStay(t *testing.T) {
 				}
 			}
 		}
-		nodesStay(t, given, whole, before)
-		buffersStay(t, layOrder(nodeTokens(given)), buffers)
+		tree.stays(t)
 	}
 	if told < 100 {
 		t.Errorf("only %d meanings were told", told)
