@@ -363,8 +363,9 @@ func TestNamesOkOfRightTrees(t *testing.T) {
 	}
 }
 
-func TestNamesOkOfWrongTrees(t *testing.T) {
-	for _, letter := range []string{
+// wronglyNamed are letters of trees that are not NamesOk.
+func wronglyNamed() []string {
+	return []string{
 		// A declaration that is not right, wherever it stands.
 		`<a ns="U"/>`, `<a ns=" "/>`, `<a ns:p=""/>`, `<a ns:p="U"/>`, `<a ns:p="u-v"/>`, `<a ns:ns=""/>`, `<a ns:ns="U"/>`, `<a ns:p="u" ns:q=""/>`, `<a ns="" ns:p=""/>`,
 		`<a><b/><c ns="u v"/></a>`, `<a><b ns:p=""/><c/></a>`, `<a><b><c ns="A"/></b></a>`, `<a ns:p=""><b ns:p="u"/></a>`, `<a ns:p="u"><b ns:p=""/></a>`,
@@ -380,7 +381,11 @@ func TestNamesOkOfWrongTrees(t *testing.T) {
 		`<a ns:p="u"><b ns:q="u" p:x="1" q:x="2"/></a>`, `<a ns:p="u"><b ns:q="u" q:x="1" p:x="2"/></a>`, `<a ns:p="u" ns:q="u"><b p:x="1" q:x="2"/></a>`, `<a ns:p="u" ns:q="u"><b/>x<c><d p:x="1" y="2" q:x="3"/></c></a>`,
 		`<a ns:p="u" ns:q="v"><b ns:q="u" p:x="1" q:x="2"/></a>`, `<a ns:p="u"><b ns:q="u"><c p:x="1" q:x="2"/></b></a>`, `<a ns:p="u" ns:q="u" p:ns="1" q:ns="2"/>`,
 		`<a ns:p="u" ns:q="v" ns:r="u" p:x="1" q:x="2" r:x="3"/>`, `<a ns:p="u" ns:q="v" ns:r="v" p:x="1" q:x="2" r:x="3"/>`,
-	} {
+	}
+}
+
+func TestNamesOkOfWrongTrees(t *testing.T) {
+	for _, letter := range wronglyNamed() {
 		nodes := letterTree(t, letter)
 		wantNamesOk(t, nodes, false)
 		checkNames(t, nodes)
@@ -563,20 +568,16 @@ func TestNamesOfNoTree(t *testing.T) {
 	}
 }
 
-// Each chain of three elements whose Attrs are of a few: the answers are those of the words of the chapter.
-func TestNamesOfShortChains(t *testing.T) {
-	kinds := [][]impl.Attr{
-		nil, attrs("ns", "u"), attrs("ns", ""), attrs("ns:p", "u"), attrs("ns:p", "v", "p:x", "1"), attrs("ns:q", "u", "ns", "v"), attrs("p:x", "1"), attrs("p:x", "1", "q:x", "1"), attrs("q:x", "1", "x", "1"), attrs("ns:p", ""), attrs("ns:ns", "u", "ns:q", "v"),
-	}
-	names := []string{"a", "p:a", "q:b", "ns:a"}
+// eachChain goes through all chains of at most three elements with these names and lists of Attrs.
+func eachChain(t *testing.T, names []string, kinds [][]impl.Attr, do func([]impl.Node)) {
 	var of []impl.Node
 	for _, list := range kinds {
 		for _, name := range names {
 			of = append(of, impl.Node{Name: name, Attrs: list})
 		}
 	}
-	right, wrong := 0, 0
 	eachList(of, 3, func(list []impl.Node) {
+		// There are thousands: one that fails tells enough.
 		if t.Failed() {
 			t.FailNow()
 		}
@@ -584,6 +585,17 @@ func TestNamesOfShortChains(t *testing.T) {
 		for i := range nodes {
 			nodes[i].Parent = int64(i) - 1
 		}
+		do(nodes)
+	})
+}
+
+// Each chain of three elements whose Attrs are of a few: the answers are those of the words of the chapter.
+func TestNamesOfShortChains(t *testing.T) {
+	kinds := [][]impl.Attr{
+		nil, attrs("ns", "u"), attrs("ns", ""), attrs("ns:p", "u"), attrs("ns:p", "v", "p:x", "1"), attrs("ns:q", "u", "ns", "v"), attrs("p:x", "1"), attrs("p:x", "1", "q:x", "1"), attrs("q:x", "1", "x", "1"), attrs("ns:p", ""), attrs("ns:ns", "u", "ns:q", "v"),
+	}
+	right, wrong := 0, 0
+	eachChain(t, []string{"a", "p:a", "q:b", "ns:a"}, kinds, func(nodes []impl.Node) {
 		want := expectedNamesOk(nodes)
 		if want {
 			right++
@@ -738,23 +750,31 @@ func TestNameAnswersAreNewMemoryAndArgumentsStay(t *testing.T) {
 	}
 }
 
-// Promise 21 for chapter 9: an answer to whatever is given, nothing where it is false, and the same one each time.
-func TestNameFunctionsAnswerEverywhere(t *testing.T) {
+// anyNodes are a few, of whatever fields; most of them are no tree.
+func anyNodes(next func(int) int) []impl.Node {
 	parents := append(farNumbers(), -2, -1, -1, -1, 0, 0, 0, 1, 2, 3, 49, 50, 51)
 	words := []string{"", "a", "p:a", "ns:a", "ns", "ns:p", "ns:ns", "1", "\xff", "p:q:r", ":"}
 	values := []string{"", "", "u", "A", "\t", strings.Repeat("v", 21), strings.Repeat("v", 61)}
+	var nodes []impl.Node
+	for range next(6) {
+		var list []impl.Attr
+		for range next(3) {
+			list = append(list, impl.Attr{Name: words[next(len(words))], Value: values[next(len(values))]})
+		}
+		nodes = append(nodes, impl.Node{Parent: parents[next(len(parents))], Name: words[next(len(words))], Attrs: list, Text: values[next(2)*next(len(values))]})
+	}
+	return nodes
+}
+
+func farNumber(next func(int) int) int64 { return farNumbers()[next(len(farNumbers()))] }
+
+// Promise 21 for chapter 9: an answer to whatever is given, nothing where it is false, and the same one each time.
+func TestNameFunctionsAnswerEverywhere(t *testing.T) {
 	for seed := range 20000 {
 		next := dice(seed)
-		var nodes []impl.Node
-		for range next(6) {
-			var list []impl.Attr
-			for range next(3) {
-				list = append(list, impl.Attr{Name: words[next(len(words))], Value: values[next(len(values))]})
-			}
-			nodes = append(nodes, impl.Node{Parent: parents[next(len(parents))], Name: words[next(len(words))], Attrs: list, Text: values[next(2)*next(len(values))]})
-		}
+		nodes := anyNodes(next)
 		checkNames(t, nodes)
-		wantNoMeaning(t, nodes, parents[next(len(farNumbers()))])
+		wantNoMeaning(t, nodes, farNumber(next))
 	}
 	for b := range 256 {
 		checkNames(t, []impl.Node{element(-1, oneByte(b)), element(0, "a"+oneByte(b)+"b", "ns:a", "u")})
