@@ -372,12 +372,12 @@ func TestSealsByWhateverPrefixMeansSeal(t *testing.T) {
 }
 
 // eachOrder goes through all orders of a list.
-func eachOrder(list []impl.Attr, do func([]impl.Attr)) {
+func eachOrder[T any](list []T, do func([]T)) {
 	if len(list) == 0 {
 		do(nil)
 	}
 	for i, one := range list {
-		eachOrder(slices.Delete(slices.Clone(list), i, i+1), func(rest []impl.Attr) { do(append([]impl.Attr{one}, rest...)) })
+		eachOrder(slices.Delete(slices.Clone(list), i, i+1), func(rest []T) { do(append([]T{one}, rest...)) })
 	}
 }
 
